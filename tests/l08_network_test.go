@@ -568,7 +568,7 @@ func TestNetMadeSortsOrders(t *testing.T) {
 }
 
 // tryOrders calls try with every order of the elements from an index on.
-func tryOrders(list []int, from int, try func([]int)) {
+func tryOrders[T any](list []T, from int, try func([]T)) {
 	if from == len(list) {
 		try(list)
 		return
